@@ -13,8 +13,17 @@ func Header(kind, stream, length int) (string, api.Errno) {
 	if !isByte(kind) || !isByte(stream) || !isByte(length) {
 		return "", api.ErrFrame
 	}
-	fields := string([]byte{byte(kind), byte(stream), byte(length)})
-	return fields + string([]byte{Check(fields)}), api.OK
+	return header(byte(kind), byte(stream), byte(length)), api.OK
+}
+
+// Make gives a whole frame. What it is handed must fit into a header, as the numbers of streams and the payloads of all frames that may be do.
+func Make(kind, stream int, payload string) string {
+	return header(byte(kind), byte(stream), byte(len(payload))) + payload
+}
+
+func header(kind, stream, length byte) string {
+	fields := string([]byte{kind, stream, length})
+	return fields + string([]byte{Check(fields)})
 }
 
 // Check works out the check byte of bytes.

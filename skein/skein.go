@@ -3,8 +3,12 @@ package skein
 
 import (
 	"skein/api"
+	"skein/config"
 	"skein/frame"
 	"skein/message"
+	"skein/outbox"
+	"skein/stream"
+	"skein/turns"
 )
 
 // Pack writes a message as bytes (P3).
@@ -19,19 +23,61 @@ func Header(kind int, stream int, length int) (string, api.Errno) {
 }
 
 // End is one of two ends.
-type End struct{}
+type End struct {
+	config  api.Config
+	streams map[int]*stream.Stream // by their numbers
+	turns   turns.Turns
+	outbox  outbox.Outbox
+	died    api.Errno // OK while it lives
+}
 
 // New makes an end (P5).
-func New(c api.Config) (*End, api.Errno) { return nil, api.OK }
+func New(c api.Config) (*End, api.Errno) {
+	if !config.Valid(c) {
+		return nil, api.ErrConfig
+	}
+	e := &End{config: c, streams: make(map[int]*stream.Stream)}
+	for number := range c.Streams {
+		e.streams[number] = stream.New(c.Window)
+	}
+	return e, api.OK
+}
 
 // Submit lays a message into a stream's queue (P6).
-func (e *End) Submit(stream int, parts []string) api.Errno { return api.OK }
+func (e *End) Submit(stream int, parts []string) api.Errno {
+	s, errno := e.living(stream)
+	if errno != api.OK {
+		return errno
+	}
+	bytes, errno := message.Pack(parts)
+	switch {
+	case errno != api.OK || len(bytes) > e.config.Window:
+		return api.ErrLong
+	case s.NoSend:
+		return api.ErrClosed
+	case e.queued()+len(bytes) > e.config.Queue:
+		return api.ErrFull
+	}
+	s.Add(bytes)
+	return api.OK
+}
 
 // Cancel gives up sending on a stream (P7).
-func (e *End) Cancel(stream int) api.Errno { return api.OK }
+func (e *End) Cancel(stream int) api.Errno {
+	s, errno := e.living(stream)
+	if errno != api.OK {
+		return errno
+	}
+	if s.NoSend {
+		return api.ErrClosed
+	}
+	s.CloseSending()
+	e.outbox.Add(frame.Make(api.Cancel, stream, ""))
+	return api.OK
+}
 
 // Write gives the next bytes to be sent (P8, P9).
-func (e *End) Write(most int) string { return "" }
+func (e *End) Write(most int) string { return e.outbox.Write(most, e.data) }
 
 // Read takes bytes that came (P10, P11).
 func (e *End) Read(s string) api.Errno { return api.OK }
@@ -46,7 +92,60 @@ func (e *End) Release(stream int) api.Errno { return api.OK }
 func (e *End) Tick() {}
 
 // State tells how much is kept (P14).
-func (e *End) State() api.State { return api.State{} }
+func (e *End) State() api.State {
+	return api.State{Queued: e.queued(), Died: e.died}
+}
 
 // Flow tells how a stream stands (P14).
-func (e *End) Flow(stream int) (api.Flow, api.Errno) { return api.Flow{}, api.OK }
+func (e *End) Flow(stream int) (api.Flow, api.Errno) {
+	s, there := e.streams[stream]
+	if !there {
+		return api.Flow{}, api.ErrStream
+	}
+	if e.died != api.OK {
+		return api.Flow{NoSend: true, NoReceive: true}, api.OK
+	}
+	return s.Flow, api.OK
+}
+
+// living gives a stream of an end that lives, or the refusal that comes ahead of any other.
+func (e *End) living(number int) (*stream.Stream, api.Errno) {
+	if e.died != api.OK {
+		return nil, api.ErrDead
+	}
+	s, there := e.streams[number]
+	if !there {
+		return nil, api.ErrStream
+	}
+	return s, api.OK
+}
+
+// all goes through the streams in the order of their numbers, of which a map knows none.
+func (e *End) all(yield func(int, *stream.Stream) bool) {
+	for number := range e.config.Streams {
+		if !yield(number, e.streams[number]) {
+			return
+		}
+	}
+}
+
+// queued is worked out when it is asked for, as the queues tell it.
+func (e *End) queued() int {
+	sum := 0
+	for _, s := range e.all {
+		sum += s.Queued()
+	}
+	return sum
+}
+
+// data gives the next Data frame, by turns; none, if no stream can send or the end is dead.
+func (e *End) data() string {
+	if e.died != api.OK {
+		return ""
+	}
+	number, bytes := e.turns.Choose(e.config, e.streams)
+	if bytes == "" {
+		return ""
+	}
+	return frame.Make(api.Data, number, bytes)
+}
