@@ -21,6 +21,11 @@ func Make(kind, stream int, payload string) string {
 	return header(byte(kind), byte(stream), byte(len(payload))) + payload
 }
 
+// Number gives a whole frame that carries one number, of those that fit into a byte.
+func Number(kind, stream, number int) string {
+	return Make(kind, stream, string([]byte{byte(number)}))
+}
+
 func header(kind, stream, length byte) string {
 	fields := string([]byte{kind, stream, length})
 	return fields + string([]byte{Check(fields)})

@@ -25,18 +25,44 @@ func Pack(parts []string) (string, api.Errno) {
 
 // Unpack gives the parts of the message that has these bytes.
 func Unpack(s string) ([]string, api.Errno) {
-	lengths, rest, ok := split(s)
-	if !ok {
+	size, errno := Size(s)
+	if errno != api.OK || size == 0 || size != len(s) {
 		return nil, api.ErrTable
 	}
-	parts := make([]string, len(lengths))
+	table := s[:1+int(s[0])]
+	rest := s[len(table):]
+	parts := make([]string, len(table)-1)
 	for i := range parts {
-		n := int(lengths[i])
+		n := int(table[1+i])
 		// A mere piece of s would keep what was handed in.
 		parts[i] = strings.Clone(rest[:n])
 		rest = rest[n:]
 	}
 	return parts, api.OK
+}
+
+// Size tells how many bytes the message has that begins with these: 0, as long as its table is not all there. It refuses bytes that no message begins with.
+func Size(begun string) (int, api.Errno) {
+	if begun == "" {
+		return 0, api.OK
+	}
+	count := int(begun[0])
+	if count > api.MaxParts {
+		return 0, api.ErrTable
+	}
+	lengths := begun[1:min(1+count, len(begun))]
+	size := 1 + count
+	// By index: ranging over a string would go by runes, not by bytes.
+	for i := range len(lengths) {
+		if lengths[i] > api.MaxPart {
+			return 0, api.ErrTable
+		}
+		size += int(lengths[i])
+	}
+	if len(lengths) < count {
+		return 0, api.OK
+	}
+	return size, api.OK
 }
 
 func within(parts []string) bool {
@@ -49,22 +75,4 @@ func within(parts []string) bool {
 		}
 	}
 	return true
-}
-
-// split parts the lengths (a byte each) from the texts behind them; ok tells whether s is the bytes of a message.
-func split(s string) (lengths, rest string, ok bool) {
-	if s == "" || int(s[0]) > api.MaxParts || int(s[0]) > len(s)-1 {
-		return "", "", false
-	}
-	start := 1 + int(s[0])
-	lengths, rest = s[1:start], s[start:]
-	// By index: ranging over a string would go by runes, not by bytes.
-	total := 0
-	for i := range len(lengths) {
-		if lengths[i] > api.MaxPart {
-			return "", "", false
-		}
-		total += int(lengths[i])
-	}
-	return lengths, rest, total == len(rest)
 }

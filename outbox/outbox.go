@@ -14,6 +14,11 @@ func (o *Outbox) Add(frame string) {
 	o.waiting = append(o.waiting, frame)
 }
 
+// Drop throws away the frames of which no byte was given. The one that is being given stays: half a frame would spoil the line.
+func (o *Outbox) Drop() {
+	o.waiting = nil
+}
+
 // Write gives the next bytes, at most most of them. Only where a byte is wanted and no frame is waiting does it ask for another one, since asking takes it out of a queue; an empty one means that there is none.
 func (o *Outbox) Write(most int, another func() string) string {
 	var line strings.Builder

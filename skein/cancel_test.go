@@ -19,7 +19,7 @@ func TestP7RefusalsInOrder(t *testing.T) {
 			stream = 2
 		}
 		if dead {
-			e.Kill(api.ErrTable)
+			kill(t, e, api.ErrTable)
 		}
 		want := refusal(dead, strange, false, closed, false)
 		if errno := e.Cancel(stream); errno != want {

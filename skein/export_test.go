@@ -1,9 +1,4 @@
 package skein
 
-import "skein/api"
-
-// Grant does by hand what a Credit frame does that comes.
-func (e *End) Grant(stream, bytes int) { e.streams[stream].Credit += bytes }
-
-// Kill does by hand what makes the calls know that an end is dead.
-func (e *End) Kill(errno api.Errno) { e.died = errno }
+// GiveUp does by hand to a stream what Tick will do to one that stands still, as long as it does not.
+func (e *End) GiveUp(stream int) { e.streams[stream].CloseReceiving() }

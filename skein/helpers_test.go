@@ -1,6 +1,7 @@
 package skein_test
 
 import (
+	"slices"
 	"strings"
 	"testing"
 
@@ -38,6 +39,14 @@ func data(stream int, payload string) string { return frameBytes(api.Data, strea
 
 func cancelled(stream int) string { return frameBytes(api.Cancel, stream, "") }
 
+func credited(stream, bytes int) string {
+	return frameBytes(api.Credit, stream, string([]byte{byte(bytes)}))
+}
+
+func resetted(stream int) string { return frameBytes(api.Reset, stream, "") }
+
+func gone(of int) string { return frameBytes(api.Away, 0, string([]byte{byte(of)})) }
+
 func newEnd(t *testing.T, c api.Config) *skein.End {
 	t.Helper()
 	e, errno := skein.New(c)
@@ -61,6 +70,67 @@ func cancel(t *testing.T, e *skein.End, stream int) {
 	}
 }
 
+func read(t *testing.T, e *skein.End, frames ...string) {
+	t.Helper()
+	expectRead(t, e, strings.Join(frames, ""), api.OK)
+}
+
+func expectRead(t *testing.T, e *skein.End, s string, want api.Errno) {
+	t.Helper()
+	if errno := e.Read(s); errno != want {
+		t.Fatalf("P10: Read(%.200q) = %d, want %d", s, errno, want)
+	}
+}
+
+// deadly is bytes of which any end dies that awaits a frame, if its stream 0 was not cancelled there, awaits a message and is owed a byte.
+func deadly(of api.Errno) string {
+	switch of {
+	case api.ErrCheck:
+		return "\x01\x00\x01\x00"
+	case api.ErrFrame:
+		return frameBytes(9, 0, "")
+	case api.ErrCredit:
+		return credited(0, 255)
+	case api.ErrTable:
+		return data(0, "\x04")
+	}
+	return gone(0)
+}
+
+// causes are all that an end can die of.
+func causes() []api.Errno {
+	return []api.Errno{api.ErrCheck, api.ErrFrame, api.ErrCredit, api.ErrTable, api.ErrAway}
+}
+
+func kill(t *testing.T, e *skein.End, of api.Errno) {
+	t.Helper()
+	expectRead(t, e, deadly(of), of)
+}
+
+func expectReceive(t *testing.T, e *skein.End, stream int, want ...string) {
+	t.Helper()
+	if parts, errno := e.Receive(stream); !slices.Equal(parts, want) || errno != api.OK {
+		t.Fatalf("P12: Receive(%d) = %q, %d, want %q", stream, parts, errno, want)
+	}
+}
+
+func expectNoReceive(t *testing.T, e *skein.End, stream int, want api.Errno) {
+	t.Helper()
+	if parts, errno := e.Receive(stream); parts != nil || errno != want {
+		t.Fatalf("P12: Receive(%d) = %q, %d, want nothing and %d", stream, parts, errno, want)
+	}
+	if errno := e.Release(stream); errno != want {
+		t.Fatalf("P12: Release(%d) = %d, want %d", stream, errno, want)
+	}
+}
+
+func release(t *testing.T, e *skein.End, stream int) {
+	t.Helper()
+	if errno := e.Release(stream); errno != api.OK {
+		t.Fatalf("P12: Release(%d) = %d", stream, errno)
+	}
+}
+
 func expectWrite(t *testing.T, e *skein.End, most int, frames ...string) {
 	t.Helper()
 	if s, want := e.Write(most), strings.Join(frames, ""); s != want {
@@ -68,9 +138,15 @@ func expectWrite(t *testing.T, e *skein.End, most int, frames ...string) {
 	}
 }
 
+// expectState is for an end that lives and holds nothing.
 func expectState(t *testing.T, e *skein.End, queued int) {
 	t.Helper()
-	if s, want := e.State(), (api.State{Queued: queued}); s != want {
+	expectKept(t, e, queued, 0, api.OK)
+}
+
+func expectKept(t *testing.T, e *skein.End, queued, held int, died api.Errno) {
+	t.Helper()
+	if s, want := e.State(), (api.State{Queued: queued, Held: held, Died: died}); s != want {
 		t.Fatalf("P14: State() = %+v, want %+v", s, want)
 	}
 }

@@ -1,16 +1,12 @@
 package skein_test
 
 import (
-	"fmt"
-	"math"
-	"math/rand/v2"
-	"testing"
+	"strings"
 
 	"skein/api"
-	"skein/skein"
 )
 
-// model does what P5 to P9 and P14 say, word by word, and has nothing in common with the program.
+// model does what P5 to P12, P14 and P15 say, word by word, and has nothing in common with the program.
 type model struct {
 	c         api.Config
 	lane      [4]lane
@@ -18,37 +14,64 @@ type model struct {
 	justBegun bool
 	frames    []string // that are to be sent
 	line      string   // what was chosen and not given
+	part      string   // what came of a frame
+	died      api.Errno
 }
 
 type lane struct {
 	queue           [][]byte
 	put             int // of the first one
 	credit, deficit int
-	closed          bool
+	closed          bool // for sending
+
+	came                       string // and was not released
+	owed                       int
+	shut                       bool // closed for receiving
+	hadCancel, hadReset, gavUp bool
 }
 
 func newModel(c api.Config) *model {
 	m := &model{c: c, justBegun: true}
 	for i := range c.Streams {
-		m.lane[i].credit = c.Window
+		m.lane[i].credit, m.lane[i].owed = c.Window, c.Window
 	}
 	return m
 }
 
-func (m *model) queued() int {
-	sum := 0
+func (m *model) state() api.State {
+	s := api.State{Died: m.died}
 	for _, l := range m.lane {
 		for _, bytes := range l.queue {
-			sum += len(bytes)
+			s.Queued += len(bytes)
 		}
-		sum -= l.put
+		s.Queued -= l.put
+		s.Held += len(l.came)
 	}
-	return sum
+	return s
+}
+
+func (m *model) flow(stream int) api.Flow {
+	if m.died != api.OK {
+		return api.Flow{NoSend: true, NoReceive: true}
+	}
+	l := m.lane[stream]
+	return api.Flow{Credit: l.credit, Owed: l.owed, Deficit: l.deficit, NoSend: l.closed, NoReceive: l.shut}
+}
+
+// refuses is what all calls refuse first.
+func (m *model) refuses(stream int) api.Errno {
+	if m.died != api.OK {
+		return api.ErrDead
+	}
+	if stream < 0 || stream >= m.c.Streams {
+		return api.ErrStream
+	}
+	return api.OK
 }
 
 func (m *model) submit(stream int, parts []string) api.Errno {
-	if stream < 0 || stream >= m.c.Streams {
-		return api.ErrStream
+	if errno := m.refuses(stream); errno != api.OK {
+		return errno
 	}
 	long := len(parts) > 3
 	for _, part := range parts {
@@ -61,21 +84,25 @@ func (m *model) submit(stream int, parts []string) api.Errno {
 	if m.lane[stream].closed {
 		return api.ErrClosed
 	}
-	if m.queued()+len(bytes) > m.c.Queue {
+	if m.state().Queued+len(bytes) > m.c.Queue {
 		return api.ErrFull
 	}
 	m.lane[stream].queue = append(m.lane[stream].queue, bytes)
 	return api.OK
 }
 
+func (l *lane) close() {
+	l.queue, l.put, l.deficit, l.closed = nil, 0, 0, true
+}
+
 func (m *model) cancel(stream int) api.Errno {
-	if stream < 0 || stream >= m.c.Streams {
-		return api.ErrStream
+	if errno := m.refuses(stream); errno != api.OK {
+		return errno
 	}
 	if m.lane[stream].closed {
 		return api.ErrClosed
 	}
-	m.lane[stream] = lane{credit: m.lane[stream].credit, closed: true}
+	m.lane[stream].close()
 	m.frames = append(m.frames, cancelled(stream))
 	return api.OK
 }
@@ -97,6 +124,9 @@ func (m *model) write(most int) string {
 func (m *model) choose() {
 	if len(m.frames) > 0 {
 		m.line, m.frames = m.frames[0], m.frames[1:]
+		return
+	}
+	if m.died != api.OK {
 		return
 	}
 	begin := m.turn
@@ -153,90 +183,142 @@ func (m *model) put(l *lane) {
 	}
 }
 
-func anyConfig(r *rand.Rand) api.Config {
-	c := api.Config{Streams: 1 + r.IntN(4), Quantum: 1 + r.IntN(8), Chunk: 1 + r.IntN(8), Patience: 1 + r.IntN(9)}
-	c.Window, c.Queue = 8+r.IntN(20), 1+r.IntN(100)
-	if r.IntN(4) == 0 {
-		c.Window, c.Queue = 8+r.IntN(243), 1+r.IntN(600)
+func (m *model) read(s string) api.Errno {
+	if m.died != api.OK {
+		return api.ErrDead
 	}
-	for i := range c.Weights {
-		c.Weights[i] = 1 + r.IntN(4)
-		if i >= c.Streams {
-			c.Weights[i] = r.IntN(100) - 50
+	for _, b := range []byte(s) {
+		m.part += string([]byte{b})
+		wrong := api.OK
+		if len(m.part) == 4 {
+			wrong = m.header(int(m.part[0]), int(m.part[1]), int(m.part[2]))
+		}
+		if wrong == api.OK && len(m.part) >= 4 && len(m.part) == 4+int(m.part[2]) {
+			wrong = m.frame(&m.lane[m.part[1]], int(m.part[0]), m.part[4:])
+			m.part = ""
+		}
+		if wrong != api.OK {
+			m.die(wrong)
+			return wrong
 		}
 	}
-	return c
+	return api.OK
 }
 
-// anyParts is mostly a message, and mostly a short one.
-func anyParts(r *rand.Rand) []string {
-	parts := make([]string, r.IntN(5)*r.IntN(5)/4)
-	for i := range parts {
-		parts[i] = text(r.IntN(256), r.IntN(7))
-		if r.IntN(8) == 0 {
-			parts[i] = text(r.IntN(256), r.IntN(17))
-		}
+func (m *model) header(kind, stream, length int) api.Errno {
+	if m.part[3] != remainder(kind, stream, length) {
+		return api.ErrCheck
 	}
-	return parts
+	may := kind >= 1 && kind <= 5 && stream < m.c.Streams
+	may = may && (kind != api.Data || length >= 1 && length <= m.c.Chunk)
+	may = may && (kind != api.Credit || length == 1)
+	may = may && (kind != api.Cancel || length == 0)
+	may = may && (kind != api.Reset || length == 0)
+	may = may && (kind != api.Away || length == 1 && stream == 0)
+	if !may {
+		return api.ErrFrame
+	}
+	if l := m.lane[stream]; kind == api.Data && (l.hadCancel || !l.gavUp && length > l.owed) {
+		return api.ErrCredit
+	}
+	return api.OK
 }
 
-// both does one thing with an end and with its model, and tells what they answered.
-func both(r *rand.Rand, e *skein.End, m *model) (call, got, want string) {
-	stream := r.IntN(m.c.Streams+2) - 1
-	switch n := r.IntN(40); {
-	case n == 0:
-		return fmt.Sprintf("Cancel(%d)", stream), fmt.Sprint(e.Cancel(stream)), fmt.Sprint(m.cancel(stream))
-	case n < 16:
-		parts := anyParts(r)
-		return fmt.Sprintf("Submit(%d, %q)", stream, parts), fmt.Sprint(e.Submit(stream, parts)), fmt.Sprint(m.submit(stream, parts))
-	case n < 22:
-		stream = r.IntN(m.c.Streams)
-		bytes := r.IntN(m.c.Window - m.lane[stream].credit + 1)
-		e.Grant(stream, bytes)
-		m.lane[stream].credit += bytes
-		return fmt.Sprintf("Credit of %d for %d", bytes, stream), "", ""
-	default:
-		most := r.IntN(20) - 2
-		if r.IntN(20) == 0 {
-			most = math.MaxInt
+func (m *model) frame(l *lane, kind int, payload string) api.Errno {
+	switch {
+	case kind == api.Data && !l.gavUp:
+		l.owed -= len(payload)
+		l.came += payload
+		if _, _, wrong := whole(l.came, m.c.Window); wrong {
+			return api.ErrTable
 		}
-		return fmt.Sprintf("Write(%d)", most), e.Write(most), m.write(most)
+	case kind == api.Credit && payload == "\x00":
+		return api.ErrFrame
+	case kind == api.Credit && int(payload[0]) > m.c.Window-l.credit:
+		return api.ErrCredit
+	case kind == api.Credit:
+		l.credit += int(payload[0])
+	case kind == api.Cancel && l.hadCancel || kind == api.Reset && l.hadReset:
+		return api.ErrFrame
+	case kind == api.Cancel:
+		l.hadCancel, l.shut, l.came = true, true, ""
+	case kind == api.Reset:
+		l.hadReset = true
+		l.close()
+	case kind == api.Away:
+		return api.ErrAway
 	}
+	return api.OK
 }
 
-func expectLikeModel(t *testing.T, e *skein.End, m *model) {
-	t.Helper()
-	expectState(t, e, m.queued())
-	for number := range m.c.Streams {
-		l := m.lane[number]
-		expectFlow(t, e, number, api.Flow{Credit: l.credit, Owed: m.c.Window, Deficit: l.deficit, NoSend: l.closed})
-		if l.deficit < 0 || l.deficit > 2*m.c.Quantum*m.c.Weights[number] || l.credit < 0 || l.credit > m.c.Window {
-			t.Fatalf("P16: Credit %d, Deficit %d by %+v", l.credit, l.deficit, m.c)
+// whole takes messages apart that came one behind the other: those that are whole, and what is left; or it is wrong.
+func whole(came string, window int) (messages [][]string, left string, wrong bool) {
+	for came != "" {
+		count := int(came[0])
+		if count > 3 {
+			return nil, "", true
 		}
-	}
-}
-
-// Several ends, each with its model, go on beside one another, at random (always the same).
-func TestP9LikeTheModel(t *testing.T) {
-	for seed := range uint64(400) {
-		r := rand.New(rand.NewPCG(seed, 2))
-		var ends []*skein.End
-		var models []*model
-		for range 3 {
-			c := anyConfig(r)
-			ends, models = append(ends, newEnd(t, c)), append(models, newModel(c))
-		}
-		var calls []string
-		for range 400 {
-			i := r.IntN(len(ends))
-			call, got, want := both(r, ends[i], models[i])
-			calls = append(calls, fmt.Sprintf("%d: %s", i, call))
-			if got != want {
-				t.Fatalf("by %+v: %q: %q, want %q", models[i].c, calls, got, want)
+		size, known := 1+count, true
+		for i := 1; i <= count; i++ {
+			if i >= len(came) {
+				known = false
+			} else if came[i] > 15 {
+				return nil, "", true
+			} else {
+				size += int(came[i])
 			}
-			for i := range ends {
-				expectLikeModel(t, ends[i], models[i])
-			}
 		}
+		if known && size > window {
+			return nil, "", true
+		}
+		if !known || size > len(came) {
+			return messages, came, false
+		}
+		var parts []string
+		at := 1 + count
+		for i := 1; i <= count; i++ {
+			parts = append(parts, came[at:at+int(came[i])])
+			at += int(came[i])
+		}
+		messages, came = append(messages, parts), came[size:]
 	}
+	return messages, "", false
+}
+
+func (m *model) die(of api.Errno) {
+	*m = model{c: m.c, line: m.line, died: of}
+	if of != api.ErrAway {
+		m.frames = []string{gone(int(of))}
+	}
+}
+
+func (m *model) receive(stream int) ([]string, api.Errno) {
+	if errno := m.refuses(stream); errno != api.OK {
+		return nil, errno
+	}
+	if m.lane[stream].shut {
+		return nil, api.ErrClosed
+	}
+	messages, _, _ := whole(m.lane[stream].came, m.c.Window)
+	if len(messages) == 0 {
+		return nil, api.ErrNone
+	}
+	return messages[0], api.OK
+}
+
+func (m *model) release(stream int) api.Errno {
+	parts, errno := m.receive(stream)
+	if errno != api.OK {
+		return errno
+	}
+	l, size := &m.lane[stream], len(asBytes(parts))
+	l.came = strings.TrimPrefix(l.came, asBytes(parts))
+	l.owed += size
+	m.frames = append(m.frames, credited(stream, size))
+	return api.OK
+}
+
+func (m *model) giveUp(stream int) {
+	l := &m.lane[stream]
+	l.came, l.shut, l.gavUp = "", true, true
 }

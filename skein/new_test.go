@@ -86,20 +86,46 @@ func TestP14NoSuchStream(t *testing.T) {
 }
 
 func TestP14DeadEnd(t *testing.T) {
-	for _, errno := range []api.Errno{api.ErrCheck, api.ErrFrame, api.ErrCredit, api.ErrTable, api.ErrAway} {
+	for _, of := range causes() {
 		e := newEnd(t, plain())
 		submit(t, e, 0, "abcd")
+		read(t, e, data(1, "\x00\x01"))
 		expectWrite(t, e, 6, data(0, "\x01\x04"))
-		e.Kill(errno)
-		if died := e.State().Died; died != errno {
-			t.Errorf("P14: State tells that it died of %d, want %d", died, errno)
-		}
+		expectKept(t, e, 4, 2, api.OK)
+		kill(t, e, of)
+		expectKept(t, e, 0, 0, of)
 		for number := range 2 {
 			expectFlow(t, e, number, api.Flow{NoSend: true, NoReceive: true})
 		}
-		if f, refused := e.Flow(2); f != (api.Flow{}) || refused != api.ErrStream {
-			t.Errorf("P14: Flow(2) of a dead end = %+v, %d", f, refused)
+		for _, number := range []int{math.MinInt, -1, 2, math.MaxInt} {
+			if f, errno := e.Flow(number); f != (api.Flow{}) || errno != api.ErrStream {
+				t.Errorf("P14: Flow(%d) of a dead end = %+v, %d", number, f, errno)
+			}
 		}
-		expectWrite(t, e, 1000)
 	}
+}
+
+// Held counts whole messages and those that are coming, of all streams.
+func TestP14Held(t *testing.T) {
+	e := newEnd(t, even(4, 8, 8))
+	held := 0
+	for _, step := range []struct {
+		stream int
+		bytes  string
+	}{{3, "\x00"}, {0, "\x03"}, {1, "\x01\x02abx"[:4]}, {0, "\x01\x02\x03abb"}, {2, "\x00\x00\x00\x01\x0fabc"}, {0, "ccc\x00\x02"}} {
+		read(t, e, data(step.stream, step.bytes))
+		held += len(step.bytes)
+		expectKept(t, e, 0, held, api.OK)
+	}
+	for _, stream := range []int{0, 2, 1, 3, 2, 0, 2} {
+		parts, _ := e.Receive(stream)
+		release(t, e, stream)
+		held -= len(asBytes(parts))
+		expectKept(t, e, 0, held, api.OK)
+	}
+	if held != 1+5 {
+		t.Errorf("%d bytes are left", held)
+	}
+	submit(t, e, 0, "ab")
+	expectKept(t, e, 4, held, api.OK)
 }

@@ -44,7 +44,8 @@ func TestP6RefusalsInOrder(t *testing.T) {
 				queued = 20
 			}
 			if dead {
-				e.Kill(api.ErrFrame)
+				kill(t, e, api.ErrFrame)
+				queued = 0
 			}
 			stream := 0
 			if strange {

@@ -113,7 +113,7 @@ func TestP9NoCredit(t *testing.T) {
 	submit(t, e, 1, "yz")
 	expectWrite(t, e, 1000, data(1, "\x01\x02yz"))
 	expectState(t, e, 4)
-	e.Grant(0, 3)
+	read(t, e, credited(0, 3))
 	expectWrite(t, e, 1000, data(0, "\x01\x02g"))
 	expectFlow(t, e, 0, api.Flow{Owed: 8, Deficit: 5})
 	cancel(t, e, 0)
@@ -130,15 +130,15 @@ func TestP9DeficitWithoutCredit(t *testing.T) {
 	expectFlow(t, e, 0, api.Flow{Owed: 10, Deficit: 22})
 	expectWrite(t, e, 1000)
 	expectFlow(t, e, 0, api.Flow{Owed: 10, Deficit: 22})
-	e.Grant(0, 1)
+	read(t, e, credited(0, 1))
 	expectWrite(t, e, 1000, data(0, "\x01"))
 	expectFlow(t, e, 0, api.Flow{Owed: 10, Deficit: 32})
-	e.Grant(0, 3)
+	read(t, e, credited(0, 3))
 	submit(t, e, 1)
 	expectWrite(t, e, 5, data(1, "\x00"))
 	expectWrite(t, e, 1, "\x01")
 	expectFlow(t, e, 0, api.Flow{Owed: 10, Deficit: 32})
-	e.Grant(0, 10)
+	read(t, e, credited(0, 10))
 	expectWrite(t, e, 6, data(0, "\x08za")[1:])
 	// A turn that has just begun is worth a share on top of what was kept.
 	expectWrite(t, e, 1, "\x01")
@@ -157,12 +157,12 @@ func TestP9KeptDeficitIsSpent(t *testing.T) {
 	expectWrite(t, e, 1000,
 		data(0, "\x01\x06a"), data(0, "b"), data(1, "\x01\x06u"), data(1, "v"),
 		data(0, "cde"), data(0, "f"), data(1, "wxy"), data(1, "z"))
-	e.Grant(0, 1)
-	e.Grant(1, 8)
+	read(t, e, credited(0, 1))
+	read(t, e, credited(1, 8))
 	submit(t, e, 1, "abcdef")
 	expectWrite(t, e, 5, data(0, "\x01"))
 	expectFlow(t, e, 0, api.Flow{Owed: 8, Deficit: 3})
-	e.Grant(0, 8)
+	read(t, e, credited(0, 8))
 	expectWrite(t, e, 1000,
 		data(1, "\x01\x06a"), data(1, "b"),
 		data(0, "\x06gh"), data(0, "ijk"), data(0, "l"),
@@ -200,7 +200,7 @@ func TestP9Fair(t *testing.T) {
 func feed(t *testing.T, e *skein.End, number, queued int) int {
 	t.Helper()
 	if f, _ := e.Flow(number); f.Credit < 50 {
-		e.Grant(number, 200)
+		read(t, e, credited(number, 200))
 	}
 	if queued >= 50 {
 		return 0

@@ -6,7 +6,11 @@ import "skein/api"
 // Stream is one stream, as one end sees it.
 type Stream struct {
 	api.Flow
-	queue []string // of each message, what was not put into frames yet
+	queue     []string // of each message, what was not put into frames yet
+	whole     []string // messages that came whole and were not released, as bytes
+	coming    string   // the bytes of the message that is coming
+	cancelled bool     // a Cancel came
+	reset     bool     // a Reset came
 }
 
 // New gives a stream on which window bytes may go either way.
@@ -14,51 +18,31 @@ func New(window int) *Stream {
 	return &Stream{Flow: api.Flow{Credit: window, Owed: window}}
 }
 
-// Queued tells how many bytes were not put into frames yet.
-func (s *Stream) Queued() int {
-	sum := 0
-	for _, left := range s.queue {
-		sum += len(left)
+// Do does what a frame does that came for the stream, and tells what is wrong with it. Away is for the whole end, which dies of it.
+func (s *Stream) Do(kind int, payload string, window int) api.Errno {
+	had, shut := &s.cancelled, s.CloseReceiving
+	switch kind {
+	case api.Data:
+		return s.take(payload, window)
+	case api.Credit:
+		return s.grant(int(payload[0]), window)
+	case api.Reset:
+		// The other end will not receive any more: the same as Cancel, the other way round.
+		had, shut = &s.reset, s.CloseSending
+		fallthrough
+	case api.Cancel:
+		if *had {
+			return api.ErrFrame
+		}
+		*had = true
+		shut()
+		return api.OK
+	default:
+		return api.ErrAway
 	}
-	return sum
 }
 
-// Add lays the bytes of a message behind all others of the queue.
-func (s *Stream) Add(message string) {
-	s.queue = append(s.queue, message)
-}
-
-// CloseSending gives up all that was not put into frames yet, and any more.
-func (s *Stream) CloseSending() {
-	s.queue = nil
-	s.NoSend = true
-	s.Deficit = 0
-}
-
-// Idle tells whether nothing is in the queue.
-func (s *Stream) Idle() bool {
-	return len(s.queue) == 0
-}
-
-// CanSend tells whether there is something to send, and credit for it.
-func (s *Stream) CanSend() bool {
-	return !s.Idle() && s.Credit > 0
-}
-
-// Cut takes bytes off the first message, for a frame: as many as Credit and Deficit allow, and pays for them. Only a stream that can send is cut.
-func (s *Stream) Cut(chunk int) string {
-	first := s.queue[0]
-	n := min(len(first), chunk, s.Credit, s.Deficit)
-	s.Credit -= n
-	s.Deficit -= n
-	s.keep(first[n:])
-	return first[:n]
-}
-
-// keep leaves no message in the queue that is all in frames.
-func (s *Stream) keep(left string) {
-	s.queue[0] = left
-	if left == "" {
-		s.queue = s.queue[1:]
-	}
+// Die throws everything away: on a dead end's stream nothing goes either way.
+func (s *Stream) Die() {
+	*s = Stream{Flow: api.Flow{NoSend: true, NoReceive: true}}
 }
