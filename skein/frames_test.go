@@ -173,7 +173,7 @@ func TestP11EachOnce(t *testing.T) {
 func TestP11DataOfAStreamThatWasReset(t *testing.T) {
 	e := newEnd(t, plain())
 	read(t, e, data(0, "\x00\x01\x02"), data(1, "\x00"))
-	e.GiveUp(0)
+	tick(e, plain().Patience)
 	flow := api.Flow{Credit: 20, Owed: 17, NoReceive: true}
 	for _, payload := range []string{"ab\x00", "\x04", "\x01\xff", "\x00"} {
 		read(t, e, strings.Repeat(data(0, payload), 20))
@@ -186,7 +186,7 @@ func TestP11DataOfAStreamThatWasReset(t *testing.T) {
 
 	e = newEnd(t, plain())
 	read(t, e, data(0, "\x01"))
-	e.GiveUp(0)
+	tick(e, plain().Patience)
 	read(t, e, data(0, "\xff"), cancelled(0))
 	expectFlow(t, e, 0, api.Flow{Credit: 20, Owed: 19, NoReceive: true})
 	expectRead(t, e, data(0, "\x00")[:4], api.ErrCredit)
@@ -198,7 +198,7 @@ func TestP11DataHalfThereWhenTheStreamIsReset(t *testing.T) {
 	for n := range len(frame) {
 		e := newEnd(t, plain())
 		read(t, e, data(0, "\x01"), frame[:n])
-		e.GiveUp(0)
+		tick(e, plain().Patience)
 		read(t, e, frame[n:], data(1, "\x00"))
 		expectKept(t, e, 0, 1, api.OK)
 		expectFlow(t, e, 0, api.Flow{Credit: 20, Owed: 19, NoReceive: true})

@@ -107,6 +107,12 @@ func kill(t *testing.T, e *skein.End, of api.Errno) {
 	expectRead(t, e, deadly(of), of)
 }
 
+func tick(e *skein.End, units int) {
+	for range units {
+		e.Tick()
+	}
+}
+
 func expectReceive(t *testing.T, e *skein.End, stream int, want ...string) {
 	t.Helper()
 	if parts, errno := e.Receive(stream); !slices.Equal(parts, want) || errno != api.OK {
@@ -155,6 +161,21 @@ func expectFlow(t *testing.T, e *skein.End, stream int, want api.Flow) {
 	t.Helper()
 	if f, errno := e.Flow(stream); f != want || errno != api.OK {
 		t.Fatalf("P14: Flow(%d) = %+v, %d, want %+v", stream, f, errno, want)
+	}
+}
+
+// expectWithin holds an end's numbers to their bounds (P16).
+func expectWithin(t *testing.T, c api.Config, e *skein.End) {
+	t.Helper()
+	s := e.State()
+	if s.Queued < 0 || s.Queued > c.Queue || s.Held < 0 || s.Held > c.Streams*c.Window {
+		t.Fatalf("P16: %+v by %+v", s, c)
+	}
+	for number := range c.Streams {
+		f, _ := e.Flow(number)
+		if min(f.Credit, f.Owed, f.Deficit) < 0 || max(f.Credit, f.Owed) > c.Window || f.Deficit > 2*c.Quantum*c.Weights[number] {
+			t.Fatalf("P16: %+v by %+v", f, c)
+		}
 	}
 }
 

@@ -6,7 +6,7 @@ import (
 	"skein/api"
 )
 
-// model does what P5 to P12, P14 and P15 say, word by word, and has nothing in common with the program.
+// model does what P5 to P15 say, word by word, and has nothing in common with the program.
 type model struct {
 	c         api.Config
 	lane      [4]lane
@@ -16,6 +16,7 @@ type model struct {
 	line      string   // what was chosen and not given
 	part      string   // what came of a frame
 	died      api.Errno
+	time      int
 }
 
 type lane struct {
@@ -25,6 +26,7 @@ type lane struct {
 	closed          bool // for sending
 
 	came                       string // and was not released
+	last                       int    // when the last byte came
 	owed                       int
 	shut                       bool // closed for receiving
 	hadCancel, hadReset, gavUp bool
@@ -229,6 +231,7 @@ func (m *model) frame(l *lane, kind int, payload string) api.Errno {
 	case kind == api.Data && !l.gavUp:
 		l.owed -= len(payload)
 		l.came += payload
+		l.last = m.time
 		if _, _, wrong := whole(l.came, m.c.Window); wrong {
 			return api.ErrTable
 		}
@@ -318,7 +321,17 @@ func (m *model) release(stream int) api.Errno {
 	return api.OK
 }
 
-func (m *model) giveUp(stream int) {
-	l := &m.lane[stream]
-	l.came, l.shut, l.gavUp = "", true, true
+func (m *model) tick() {
+	m.time++
+	if m.died != api.OK {
+		return
+	}
+	for stream := range m.c.Streams {
+		l := &m.lane[stream]
+		_, left, _ := whole(l.came, m.c.Window)
+		if !l.shut && left != "" && l.last <= m.time-m.c.Patience {
+			l.came, l.shut, l.gavUp = "", true, true
+			m.frames = append(m.frames, resetted(stream))
+		}
+	}
 }

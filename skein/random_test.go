@@ -44,11 +44,12 @@ type trial struct {
 	line    string    // that is to be read
 	pending [4]string // bytes of messages that are not yet in frames
 	wrong   int       // one frame of so many is a wrong one
+	ticks   int       // so many calls of 100 are Tick
 }
 
 func newTrial(t *testing.T, r *rand.Rand) *trial {
 	c := anyConfig(r)
-	return &trial{e: newEnd(t, c), m: newModel(c), wrong: 20 + r.IntN(400)}
+	return &trial{e: newEnd(t, c), m: newModel(c), wrong: 20 + r.IntN(400), ticks: r.IntN(12)}
 }
 
 // frame is one that mostly may come, as far as what was read tells.
@@ -131,10 +132,10 @@ func (a *trial) step(r *rand.Rand) (call, got, want string) {
 	switch n := r.IntN(100); {
 	case n == 0:
 		return fmt.Sprintf("Cancel(%d)", stream), fmt.Sprint(a.e.Cancel(stream)), fmt.Sprint(a.m.cancel(stream))
-	case n == 1 && a.m.refuses(stream) == api.OK && r.IntN(4) == 0:
-		a.e.GiveUp(stream)
-		a.m.giveUp(stream)
-		return fmt.Sprintf("GiveUp(%d)", stream), "", ""
+	case n <= a.ticks:
+		a.e.Tick()
+		a.m.tick()
+		return "Tick()", "", ""
 	case n < 20:
 		parts := anyParts(r)
 		return fmt.Sprintf("Submit(%d, %q)", stream, parts), fmt.Sprint(a.e.Submit(stream, parts)), fmt.Sprint(a.m.submit(stream, parts))
@@ -159,22 +160,16 @@ func (a *trial) expectAlike(t *testing.T) {
 	t.Helper()
 	want := a.m.state()
 	expectKept(t, a.e, want.Queued, want.Held, want.Died)
-	if want.Queued > a.m.c.Queue || want.Held > a.m.c.Streams*a.m.c.Window {
-		t.Fatalf("P16: %+v by %+v", want, a.m.c)
-	}
 	for number := range a.m.c.Streams {
-		f := a.m.flow(number)
-		expectFlow(t, a.e, number, f)
-		within := func(n, most int) bool { return 0 <= n && n <= most }
-		if !within(f.Credit, a.m.c.Window) || !within(f.Owed, a.m.c.Window) || !within(f.Deficit, 2*a.m.c.Quantum*a.m.c.Weights[number]) {
-			t.Fatalf("P16: %+v by %+v", f, a.m.c)
-		}
+		expectFlow(t, a.e, number, a.m.flow(number))
 	}
+	expectWithin(t, a.m.c, a.e)
 }
 
 // Several ends, each with its model, go on beside one another, at random (always the same).
 func TestP11LikeTheModel(t *testing.T) {
 	deaths := map[api.Errno]int{}
+	resets, crossed := 0, 0 // steps behind a reset, and of these, behind a Cancel of the same stream
 	for seed := range uint64(500) {
 		r := rand.New(rand.NewPCG(seed, 3))
 		trials := []*trial{newTrial(t, r), newTrial(t, r), newTrial(t, r)}
@@ -188,11 +183,22 @@ func TestP11LikeTheModel(t *testing.T) {
 			}
 			for _, a := range trials {
 				a.expectAlike(t)
+				for _, l := range a.m.lane {
+					if l.gavUp {
+						resets++
+					}
+					if l.gavUp && l.hadCancel {
+						crossed++
+					}
+				}
 			}
 		}
 		for _, a := range trials {
 			deaths[a.m.died]++
 		}
+	}
+	if resets < 10000 || crossed < 1000 {
+		t.Errorf("only %d steps behind a reset, %d behind a Cancel, too", resets, crossed)
 	}
 	for _, of := range append(causes(), api.OK) {
 		if deaths[of] < 50 {

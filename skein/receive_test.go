@@ -71,7 +71,7 @@ func TestP12NoSuchStream(t *testing.T) {
 func TestP12ClosedByThisEnd(t *testing.T) {
 	e := newEnd(t, plain())
 	read(t, e, data(1, "\x00\x01"))
-	e.GiveUp(1)
+	tick(e, plain().Patience)
 	expectNoReceive(t, e, 1, api.ErrClosed)
 }
 

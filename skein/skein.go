@@ -119,7 +119,14 @@ func (e *End) Release(stream int) api.Errno {
 }
 
 // Tick lets time go by (P13).
-func (e *End) Tick() {}
+func (e *End) Tick() {
+	for number, s := range e.all {
+		if s.Tick(e.config.Patience) {
+			s.CloseReceiving()
+			e.outbox.Add(frame.Make(api.Reset, number, ""))
+		}
+	}
+}
 
 // State tells how much is kept (P14).
 func (e *End) State() api.State {

@@ -212,8 +212,12 @@ func feed(t *testing.T, e *skein.End, number, queued int) int {
 	return size + 1 + 49
 }
 
+// wholeFrame gives the next frame, if there is one.
 func wholeFrame(e *skein.End) string {
 	header := e.Write(4)
+	if header == "" {
+		return ""
+	}
 	return header + e.Write(int(header[2]))
 }
 

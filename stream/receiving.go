@@ -21,6 +21,7 @@ func (s *Stream) take(payload string, window int) api.Errno {
 		return api.OK
 	}
 	s.Owed -= len(payload)
+	s.still = 0
 	// By index: ranging over a string would go by runes, not by bytes.
 	for i := range len(payload) {
 		s.coming += payload[i : i+1]
@@ -51,6 +52,15 @@ func (s *Stream) Release() int {
 	s.whole = s.whole[1:]
 	s.Owed += size
 	return size
+}
+
+// Tick lets a unit of time go by, and tells whether a message that is coming has stood still for patience units by then. On a stream that is closed for receiving, as all of a dead end are, none is coming.
+func (s *Stream) Tick(patience int) bool {
+	if s.coming == "" {
+		return false
+	}
+	s.still++
+	return s.still >= patience
 }
 
 // CloseReceiving gives up all that is held, and any more.

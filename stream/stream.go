@@ -9,6 +9,7 @@ type Stream struct {
 	queue     []string // of each message, what was not put into frames yet
 	whole     []string // messages that came whole and were not released, as bytes
 	coming    string   // the bytes of the message that is coming
+	still     int      // units of time that went by since the last of these bytes came
 	cancelled bool     // a Cancel came
 	reset     bool     // a Reset came
 }
